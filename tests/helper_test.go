@@ -45,6 +45,28 @@ func wantNoNumber(t *testing.T, what string, got int, ok bool) {
 	}
 }
 
+// A told is what a call tells: a fraction, and whether it succeeds.
+type told struct {
+	above, below int
+	ok           bool
+}
+
+func tell(above int, below int, ok bool) told { return told{above, below, ok} }
+
+func wantFraction(t *testing.T, what string, got told, above int, below int) {
+	t.Helper()
+	if got != (told{above, below, true}) {
+		t.Errorf("%s: got %d / %d, %v, want %d / %d", what, got.above, got.below, got.ok, above, below)
+	}
+}
+
+func wantNoFraction(t *testing.T, what string, got told) {
+	t.Helper()
+	if got != (told{}) {
+		t.Errorf("%s: got %d / %d, %v, want it to fail", what, got.above, got.below, got.ok)
+	}
+}
+
 // wantStairs holds stairs against a text, and wants the call to fail if the text is empty.
 func wantStairs(t *testing.T, what string, got impl.Stairs, ok bool, want string) {
 	t.Helper()
