@@ -45,7 +45,7 @@ func wantNoNumber(t *testing.T, what string, got int, ok bool) {
 	}
 }
 
-// A told is what a call tells: a fraction, and whether it succeeds.
+// A told is what a call tells: a fraction, or two numbers, and whether it succeeds.
 type told struct {
 	above, below int
 	ok           bool
@@ -53,18 +53,28 @@ type told struct {
 
 func tell(above int, below int, ok bool) told { return told{above, below, ok} }
 
+func wantTwo(t *testing.T, what string, got told, first int, second int) {
+	t.Helper()
+	if got != (told{first, second, true}) {
+		t.Errorf("%s: got %d and %d, %v, want %d and %d", what, got.above, got.below, got.ok, first, second)
+	}
+}
+
+func wantNotTwo(t *testing.T, what string, got told) {
+	t.Helper()
+	if got != (told{}) {
+		t.Errorf("%s: got %d and %d, %v, want it to fail", what, got.above, got.below, got.ok)
+	}
+}
+
 func wantFraction(t *testing.T, what string, got told, above int, below int) {
 	t.Helper()
-	if got != (told{above, below, true}) {
-		t.Errorf("%s: got %d / %d, %v, want %d / %d", what, got.above, got.below, got.ok, above, below)
-	}
+	wantTwo(t, what, got, above, below)
 }
 
 func wantNoFraction(t *testing.T, what string, got told) {
 	t.Helper()
-	if got != (told{}) {
-		t.Errorf("%s: got %d / %d, %v, want it to fail", what, got.above, got.below, got.ok)
-	}
+	wantNotTwo(t, what, got)
 }
 
 // wantStairs holds stairs against a text, and wants the call to fail if the text is empty.
